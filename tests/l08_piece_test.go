@@ -775,15 +775,29 @@ func withRoom[T any](list []T) []T {
 	return room[:len(list)]
 }
 
-func TestPiecesAreLeftAsTheyAre(t *testing.T) {
-	p, v := pieceByHand(), withRoom([]int{1, 2, 1, 2})
+// roomyPiece is the piece by hand with spare room behind each of its lists.
+func roomyPiece() impl.Piece {
+	p := pieceByHand()
 	p.Rules, p.Chunks, p.Spans, p.Ties = withRoom(p.Rules), withRoom(p.Chunks), withRoom(p.Spans), withRoom(p.Ties)
-	wholeOf := func() impl.Piece {
-		whole := p
-		whole.Rules, whole.Chunks, whole.Spans, whole.Ties = p.Rules[:cap(p.Rules)], p.Chunks[:cap(p.Chunks)], p.Spans[:cap(p.Spans)], p.Ties[:cap(p.Ties)]
-		return whole
+	return p
+}
+
+// heldWithRoom looks at a piece and a list of values as they are, their spare room too; what it tells is to be called behind all that might change them.
+func heldWithRoom(t *testing.T, p impl.Piece, v []int) func() {
+	whole := p
+	whole.Rules, whole.Chunks, whole.Spans, whole.Ties = p.Rules[:cap(p.Rules)], p.Chunks[:cap(p.Chunks)], p.Spans[:cap(p.Spans)], p.Ties[:cap(p.Ties)]
+	before, values := clonePiece(whole), slices.Clone(v[:cap(v)])
+	return func() {
+		t.Helper()
+		if !reflect.DeepEqual(whole, before) || !slices.Equal(v[:cap(v)], values) {
+			t.Errorf("the piece is %+v, the values are %v", whole, v[:cap(v)])
+		}
 	}
-	before, values := clonePiece(wholeOf()), slices.Clone(v[:cap(v)])
+}
+
+func TestPiecesAreLeftAsTheyAre(t *testing.T) {
+	p, v := roomyPiece(), withRoom([]int{1, 2, 1, 2})
+	isLeft := heldWithRoom(t, p, v)
 	for _, list := range [][]int{v, v[:3], nil} {
 		impl.PieceOk(p)
 		impl.ValuesOk(p, list)
@@ -795,9 +809,7 @@ func TestPiecesAreLeftAsTheyAre(t *testing.T) {
 			all[:cap(all)][i] = 77
 		}
 	}
-	if !reflect.DeepEqual(wholeOf(), before) || !slices.Equal(v[:cap(v)], values) {
-		t.Errorf("the piece is %+v, the values are %v", wholeOf(), v[:cap(v)])
-	}
+	isLeft()
 }
 
 func TestAllSplitIsNewMemory(t *testing.T) {

@@ -4,7 +4,6 @@ import (
 	"cmp"
 	"math"
 	"math/rand"
-	"reflect"
 	"slices"
 	"strings"
 	"testing"
@@ -671,14 +670,8 @@ func TestCompareAsTexts(t *testing.T) {
 }
 
 func TestRenderLeavesAllAsItIs(t *testing.T) {
-	p, v := pieceByHand(), withRoom([]int{1, 2, 1, 2})
-	p.Rules, p.Chunks, p.Spans, p.Ties = withRoom(p.Rules), withRoom(p.Chunks), withRoom(p.Spans), withRoom(p.Ties)
-	wholeOf := func() impl.Piece {
-		whole := p
-		whole.Rules, whole.Chunks, whole.Spans, whole.Ties = p.Rules[:cap(p.Rules)], p.Chunks[:cap(p.Chunks)], p.Spans[:cap(p.Spans)], p.Ties[:cap(p.Ties)]
-		return whole
-	}
-	before, values := clonePiece(wholeOf()), slices.Clone(v[:cap(v)])
+	p, v := roomyPiece(), withRoom([]int{1, 2, 1, 2})
+	isLeft := heldWithRoom(t, p, v)
 	for _, list := range [][]int{v, v[:3], nil} {
 		lines := impl.Render(p, list)
 		for i := range lines[:cap(lines)] {
@@ -688,9 +681,7 @@ func TestRenderLeavesAllAsItIs(t *testing.T) {
 		impl.Compare(list, v)
 		impl.Compare(v, list)
 	}
-	if !reflect.DeepEqual(wholeOf(), before) || !slices.Equal(v[:cap(v)], values) {
-		t.Errorf("the piece is %+v, the values are %v", wholeOf(), v[:cap(v)])
-	}
+	isLeft()
 }
 
 func TestRenderIsNewMemory(t *testing.T) {

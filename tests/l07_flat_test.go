@@ -356,28 +356,33 @@ func TestTellAnySource(t *testing.T) {
 	}
 }
 
-// TestTellTurnedTrees turns one thing in a tree, by chance: if it is still right, it is told as it is now, else not at all.
+// turnOneThing turns one thing in nodes, by chance; they may be a right tree still.
+func turnOneThing(chance *rand.Rand, nodes []impl.Node) {
+	node := &nodes[chance.Intn(len(nodes))]
+	switch kind := chance.Intn(6); {
+	case kind == 0:
+		node.Kind = chance.Intn(25) - 1
+	case kind == 1:
+		node.Text = []string{"", "a", "7", "'t'", "// o", "+", "&&", "=", "a b"}[chance.Intn(9)]
+	case kind == 2:
+		node.Blank = !node.Blank
+	case kind == 3:
+		node.Kids = append(node.Kids, chance.Intn(len(nodes)+2)-1)
+	case len(node.Kids) == 0:
+	case kind == 4:
+		chance.Shuffle(len(node.Kids), func(i, j int) { node.Kids[i], node.Kids[j] = node.Kids[j], node.Kids[i] })
+	default:
+		node.Kids[chance.Intn(len(node.Kids))] = chance.Intn(len(nodes)+2) - 1
+	}
+}
+
+// TestTellTurnedTrees turns one thing in a tree: if it is still right, it is told as it is now, else not at all.
 func TestTellTurnedTrees(t *testing.T) {
 	rights := 0
 	for seed := range int64(4000) {
-		nodes, chance := anyTree(seed), rand.New(rand.NewSource(seed))
+		nodes := anyTree(seed)
 		isAsByForm(t, nodes)
-		node := &nodes[chance.Intn(len(nodes))]
-		switch kind := chance.Intn(6); {
-		case kind == 0:
-			node.Kind = chance.Intn(25) - 1
-		case kind == 1:
-			node.Text = []string{"", "a", "7", "'t'", "// o", "+", "&&", "=", "a b"}[chance.Intn(9)]
-		case kind == 2:
-			node.Blank = !node.Blank
-		case kind == 3:
-			node.Kids = append(node.Kids, chance.Intn(len(nodes)+2)-1)
-		case len(node.Kids) == 0:
-		case kind == 4:
-			chance.Shuffle(len(node.Kids), func(i, j int) { node.Kids[i], node.Kids[j] = node.Kids[j], node.Kids[i] })
-		default:
-			node.Kids[chance.Intn(len(node.Kids))] = chance.Intn(len(nodes)+2) - 1
-		}
+		turnOneThing(rand.New(rand.NewSource(seed)), nodes)
 		isAsByForm(t, nodes)
 		if impl.TreeOk(nodes) {
 			rights++
@@ -388,39 +393,51 @@ func TestTellTurnedTrees(t *testing.T) {
 	}
 }
 
+// wrongTrees has a list of nodes for each way in which chapter 5 says that they are no right tree.
+func wrongTrees() map[string][]impl.Node {
+	list := map[string][]impl.Node{}
+	list["no nodes"] = nil
+	list["no nodes, an empty list"] = []impl.Node{}
+	list["a node of no kind"] = []impl.Node{{}}
+	list["a kind below 1"] = nodesWith(func(nodes []impl.Node) { nodes[0].Kind = -1 })
+	list["a kind above 22"] = nodesWith(func(nodes []impl.Node) { nodes[0].Kind = 23 })
+	list["a kid below 0"] = nodesWith(func(nodes []impl.Node) { nodes[2].Kids[0] = -1 })
+	list["a kid that is itself"] = nodesWith(func(nodes []impl.Node) { nodes[2].Kids[0] = 2 })
+	list["a kid behind it"] = nodesWith(func(nodes []impl.Node) { nodes[2].Kids[0] = 3 })
+	list["a kid past the end"] = nodesWith(func(nodes []impl.Node) { nodes[2].Kids[0] = 5 })
+	list["a kid twice"] = nodesWith(func(nodes []impl.Node) { nodes[2].Kids[1] = 0 })
+	list["a name that is none"] = nodesWith(func(nodes []impl.Node) { nodes[0].Text = "a b" })
+	list["a name without Text"] = nodesWith(func(nodes []impl.Node) { nodes[0].Text = "" })
+	list["a number that is none"] = nodesWith(func(nodes []impl.Node) { nodes[1].Text = "x" })
+	list["a list with Text"] = nodesWith(func(nodes []impl.Node) { nodes[2].Text = "x" })
+	list["a Blank of a value"] = nodesWith(func(nodes []impl.Node) { nodes[1].Blank = true })
+	list["a Blank of a file"] = nodesWith(func(nodes []impl.Node) { nodes[4].Blank = true })
+	list["a last one that is no file"] = nodesWith(func(nodes []impl.Node) { nodes[4].Kind, nodes[4].Text = impl.NdClass, "C" })
+	list["no file"] = nodesWith(func(nodes []impl.Node) {})[:4]
+	list["a node that is nobody's"] = nodesWith(func(nodes []impl.Node) { nodes[2].Kids = nodes[2].Kids[:1] })
+	list["all nodes nobody's"] = nodesWith(func(nodes []impl.Node) { nodes[4].Kids = nil })
+	list["a node of two"] = append(nodesWith(func(nodes []impl.Node) {})[:4], nodesOf([]string{"var w 2", "file 3 4"})...)
+	list["a file in a file"] = append(nodesWith(func(nodes []impl.Node) {}), impl.Node{Kind: impl.NdFile, Kids: []int{4}})
+	list["a chain of one"] = nodesOf([]string{"name a", "chain + 0", "var v 1", "file 2"})
+	list["a chain of another mark"] = nodesOf([]string{"name a", "name b", "chain = 0 1", "var v 2", "file 3"})
+	list["a call of nothing"] = nodesOf([]string{"call", "var v 0", "file 1"})
+	list["a pick of two"] = nodesOf([]string{"name a", "name b", "pick 0 1", "var v 2", "file 3"})
+	list["an arrow of nothing"] = nodesOf([]string{"fn", "var v 0", "file 1"})
+	list["a method without a block"] = nodesOf([]string{"name a", "method m 0", "file 1"})
+	list["a method of nothing"] = nodesOf([]string{"method m", "file 0"})
+	list["an if of a value alone"] = nodesOf([]string{"name a", "if 0", "block 1", "method m 2", "file 3"})
+	list["a cascade of nothing"] = nodesOf([]string{"cascade", "var v 0", "file 1"})
+	list["a brackets' value that there is not"] = nodesOf([]string{"par", "var v 0", "file 1"})
+	list["a node too many"] = wideTree(impl.MaxNodes + 1)
+	list["a value too deep"] = nested(impl.MaxDeep - 2)
+	list["a kid too many"] = nodesOf(append(slices.Repeat([]string{"var v"}, mostKids+1), "file 0 1 2 3 4 5 6 7 8 9 10 11 12"))
+	return list
+}
+
 func TestTellNothingOfWrongTrees(t *testing.T) {
-	tellsNothing(t, "no nodes", nil)
-	tellsNothing(t, "no nodes", []impl.Node{})
-	tellsNothing(t, "a node of no kind", []impl.Node{{}})
-	tellsNothing(t, "a kind below 1", nodesWith(func(nodes []impl.Node) { nodes[0].Kind = -1 }))
-	tellsNothing(t, "a kind above 22", nodesWith(func(nodes []impl.Node) { nodes[0].Kind = 23 }))
-	tellsNothing(t, "a kid below 0", nodesWith(func(nodes []impl.Node) { nodes[2].Kids[0] = -1 }))
-	tellsNothing(t, "a kid that is itself", nodesWith(func(nodes []impl.Node) { nodes[2].Kids[0] = 2 }))
-	tellsNothing(t, "a kid behind it", nodesWith(func(nodes []impl.Node) { nodes[2].Kids[0] = 3 }))
-	tellsNothing(t, "a kid past the end", nodesWith(func(nodes []impl.Node) { nodes[2].Kids[0] = 5 }))
-	tellsNothing(t, "a kid twice", nodesWith(func(nodes []impl.Node) { nodes[2].Kids[1] = 0 }))
-	tellsNothing(t, "a name that is none", nodesWith(func(nodes []impl.Node) { nodes[0].Text = "a b" }))
-	tellsNothing(t, "a name without Text", nodesWith(func(nodes []impl.Node) { nodes[0].Text = "" }))
-	tellsNothing(t, "a number that is none", nodesWith(func(nodes []impl.Node) { nodes[1].Text = "x" }))
-	tellsNothing(t, "a list with Text", nodesWith(func(nodes []impl.Node) { nodes[2].Text = "x" }))
-	tellsNothing(t, "a Blank of a value", nodesWith(func(nodes []impl.Node) { nodes[1].Blank = true }))
-	tellsNothing(t, "a Blank of a file", nodesWith(func(nodes []impl.Node) { nodes[4].Blank = true }))
-	tellsNothing(t, "a last one that is no file", nodesWith(func(nodes []impl.Node) { nodes[4].Kind, nodes[4].Text = impl.NdClass, "C" }))
-	tellsNothing(t, "no file", nodesWith(func(nodes []impl.Node) {})[:4])
-	tellsNothing(t, "a node that is nobody's", nodesWith(func(nodes []impl.Node) { nodes[2].Kids = nodes[2].Kids[:1] }))
-	tellsNothing(t, "all nodes nobody's", nodesWith(func(nodes []impl.Node) { nodes[4].Kids = nil }))
-	tellsNothing(t, "a node of two", append(nodesWith(func(nodes []impl.Node) {})[:4], nodesOf([]string{"var w 2", "file 3 4"})...))
-	tellsNothing(t, "a file in a file", append(nodesWith(func(nodes []impl.Node) {}), impl.Node{Kind: impl.NdFile, Kids: []int{4}}))
-	tellsNothing(t, "a chain of one", nodesOf([]string{"name a", "chain + 0", "var v 1", "file 2"}))
-	tellsNothing(t, "a chain of another mark", nodesOf([]string{"name a", "name b", "chain = 0 1", "var v 2", "file 3"}))
-	tellsNothing(t, "a call of nothing", nodesOf([]string{"call", "var v 0", "file 1"}))
-	tellsNothing(t, "a pick of two", nodesOf([]string{"name a", "name b", "pick 0 1", "var v 2", "file 3"}))
-	tellsNothing(t, "an arrow of nothing", nodesOf([]string{"fn", "var v 0", "file 1"}))
-	tellsNothing(t, "a method without a block", nodesOf([]string{"name a", "method m 0", "file 1"}))
-	tellsNothing(t, "a method of nothing", nodesOf([]string{"method m", "file 0"}))
-	tellsNothing(t, "an if of a value alone", nodesOf([]string{"name a", "if 0", "block 1", "method m 2", "file 3"}))
-	tellsNothing(t, "a cascade of nothing", nodesOf([]string{"cascade", "var v 0", "file 1"}))
-	tellsNothing(t, "a brackets' value that there is not", nodesOf([]string{"par", "var v 0", "file 1"}))
+	for why, nodes := range wrongTrees() {
+		tellsNothing(t, why, nodes)
+	}
 	// What all of these are but for one thing is right.
 	tellsSigns(t, nodesWith(func(nodes []impl.Node) {}), signsByHand("nnmmnmdmm", "var", "v", "=", "[", "a", ",", "1", "]", ";"))
 }

@@ -6,7 +6,6 @@ import (
 	"math/rand"
 	"slices"
 	"strings"
-	"sync"
 	"testing"
 
 	"loop.example/g00459/impl"
@@ -834,37 +833,17 @@ func TestFormatIsNewMemory(t *testing.T) {
 	}
 }
 
-// TestFormatKeepsNothing asks for the same things in another order, and all at once.
 func TestFormatKeepsNothing(t *testing.T) {
-	type asked struct {
-		source        string
-		width, budget int
-	}
-	calls, answers := []asked{}, []string{}
-	ask := func(c asked) string {
-		text, state, code := impl.Format(c.source, c.width, c.budget)
-		return fmt.Sprint(text, state, code, impl.Stays(c.source, c.width, c.budget))
-	}
+	asks := []func() string{}
 	for _, source := range []string{"", pointSource, "var a = ;", "$", "m(){f(a,b);}", growing(t, mostWritten+1), blanks(impl.MaxSource + 1)} {
 		for _, width := range []int{9, 10, 80} {
 			for _, budget := range []int{-1, 0, enough} {
-				calls = append(calls, asked{source, width, budget})
-				answers = append(answers, ask(calls[len(calls)-1]))
+				asks = append(asks, func() string {
+					text, state, code := impl.Format(source, width, budget)
+					return fmt.Sprint(text, state, code, impl.Stays(source, width, budget))
+				})
 			}
 		}
 	}
-	for i := len(calls) - 1; i >= 0; i-- {
-		if got := ask(calls[i]); got != answers[i] {
-			t.Errorf("%v is answered with %s, then with %s", calls[i], answers[i], got)
-		}
-	}
-	later := make([]string, len(calls))
-	var all sync.WaitGroup
-	for i, call := range calls {
-		all.Go(func() { later[i] = ask(call) })
-	}
-	all.Wait()
-	if !slices.Equal(later, answers) {
-		t.Error("asked all at once, they are answered in another way")
-	}
+	keepNothing(t, asks)
 }

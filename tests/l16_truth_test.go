@@ -4,6 +4,7 @@ import (
 	"fmt"
 	"math"
 	"math/rand"
+	"reflect"
 	"regexp"
 	"slices"
 	"strings"
@@ -799,7 +800,28 @@ func TestTruthsLeaveAllAsItIs(t *testing.T) {
 	}
 }
 
-// TestTruthsKeepNothing asks for the same things in another order, and all at once.
+// keepNothing asks for the same things in another order, and all at once.
+func keepNothing[T any](t *testing.T, asks []func() T) {
+	t.Helper()
+	answers, later := make([]T, len(asks)), make([]T, len(asks))
+	for i, ask := range asks {
+		answers[i] = ask()
+	}
+	for i := len(asks) - 1; i >= 0; i-- {
+		if again := asks[i](); !reflect.DeepEqual(again, answers[i]) {
+			t.Errorf("the question %d is answered with %v, then with %v", i, answers[i], again)
+		}
+	}
+	var all sync.WaitGroup
+	for i, ask := range asks {
+		all.Go(func() { later[i] = ask() })
+	}
+	all.Wait()
+	if !reflect.DeepEqual(later, answers) {
+		t.Error("asked all at once, they are answered in another way")
+	}
+}
+
 func TestTruthsKeepNothing(t *testing.T) {
 	texts := []string{"", "\n", "var a;", "var a;\n", "var a;\n\nvar b;\n", "var a; \n", "$", pointSource, blanks(impl.MaxSource + 1)}
 	asks := []func() bool{}
@@ -812,21 +834,5 @@ func TestTruthsKeepNothing(t *testing.T) {
 	for _, p := range []impl.Piece{{}, pieceByHand(), tiedByHand(), rulesAlone(2, 3)} {
 		asks = append(asks, func() bool { return impl.TrueSearch(p, 12, 3) }, func() bool { return impl.TrueSearch(p, 80, enough) })
 	}
-	answers, later := make([]bool, len(asks)), make([]bool, len(asks))
-	for i, ask := range asks {
-		answers[i] = ask()
-	}
-	for i := len(asks) - 1; i >= 0; i-- {
-		if asks[i]() != answers[i] {
-			t.Errorf("the question %d is answered with %v, then with %v", i, answers[i], !answers[i])
-		}
-	}
-	var all sync.WaitGroup
-	for i, ask := range asks {
-		all.Go(func() { later[i] = ask() })
-	}
-	all.Wait()
-	if !slices.Equal(later, answers) {
-		t.Error("asked all at once, they are answered in another way")
-	}
+	keepNothing(t, asks)
 }

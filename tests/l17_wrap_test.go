@@ -6,7 +6,6 @@ import (
 	"regexp"
 	"slices"
 	"strings"
-	"sync"
 	"testing"
 
 	"loop.example/g00459/impl"
@@ -927,7 +926,6 @@ func TestWrapsLeaveTheWords(t *testing.T) {
 	isWrapped(t, words, 6)
 }
 
-// TestWrapsKeepNothing asks for the same things in another order, and all at once.
 func TestWrapsKeepNothing(t *testing.T) {
 	chance := rand.New(rand.NewSource(17))
 	asks := []func() []string{}
@@ -944,19 +942,5 @@ func TestWrapsKeepNothing(t *testing.T) {
 				})
 		}
 	}
-	answers, later := make([][]string, len(asks)), make([][]string, len(asks))
-	for i, ask := range asks {
-		answers[i] = ask()
-	}
-	for i := len(asks) - 1; i >= 0; i-- {
-		linesAre(t, "an answer that is asked for again", asks[i](), answers[i]...)
-	}
-	var all sync.WaitGroup
-	for i, ask := range asks {
-		all.Go(func() { later[i] = ask() })
-	}
-	all.Wait()
-	for i := range asks {
-		linesAre(t, "an answer of many at once", later[i], answers[i]...)
-	}
+	keepNothing(t, asks)
 }

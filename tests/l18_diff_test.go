@@ -6,7 +6,6 @@ import (
 	"math/rand"
 	"slices"
 	"strings"
-	"sync"
 	"testing"
 
 	"loop.example/g00459/impl"
@@ -620,7 +619,6 @@ func TestEditsLeaveTheLists(t *testing.T) {
 	editsAre(t, "the list of edits", list[:cap(list)], was...)
 }
 
-// TestEditsKeepNothing asks for the same things in another order, and all at once.
 func TestEditsKeepNothing(t *testing.T) {
 	chance := rand.New(rand.NewSource(182))
 	asks := []func() string{}
@@ -634,19 +632,5 @@ func TestEditsKeepNothing(t *testing.T) {
 			func() string { return fmt.Sprint(impl.ApplyEdits(b, list)) },
 			func() string { return fmt.Sprint(impl.BackOf(list), impl.KeptIn(list)) })
 	}
-	answers, later := make([]string, len(asks)), make([]string, len(asks))
-	for i, ask := range asks {
-		answers[i] = ask()
-	}
-	for i := len(asks) - 1; i >= 0; i-- {
-		if asks[i]() != answers[i] {
-			t.Error("an answer that is asked for again is another one")
-		}
-	}
-	var all sync.WaitGroup
-	for i, ask := range asks {
-		all.Go(func() { later[i] = ask() })
-	}
-	all.Wait()
-	linesAre(t, "the answers of many at once", later, answers...)
+	keepNothing(t, asks)
 }

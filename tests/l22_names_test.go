@@ -64,7 +64,7 @@ func isGiven(nodes []impl.Node, under []int, k int) bool {
 	})
 }
 
-// textsWhere has the Texts of those places that are asked for, each once, in the order in which texts are compared.
+// textsWhere has the Texts of those places that are asked for, each once, in the order in which they stand.
 func textsWhere(nodes []impl.Node, under []int, is func(place int) bool) []string {
 	texts := []string{}
 	for _, place := range under {
@@ -72,8 +72,19 @@ func textsWhere(nodes []impl.Node, under []int, is func(place int) bool) []strin
 			texts = append(texts, nodes[place].Text)
 		}
 	}
-	slices.Sort(texts)
 	return texts
+}
+
+// isPartInOrder asks whether all of a part stand in the whole, in the same order, each once.
+func isPartInOrder(part []string, whole []string) bool {
+	for _, text := range part {
+		at := slices.Index(whole, text)
+		if at < 0 {
+			return false
+		}
+		whole = whole[at+1:]
+	}
+	return true
 }
 
 // toldNames is what is told of one node.
@@ -174,9 +185,15 @@ func namesAre(t *testing.T, nodes []impl.Node, k int, want toldNames) {
 	linesAre(t, "LetsIn"+at, lets, want.lets...)
 	linesAre(t, "FreeIn"+at, free, want.free...)
 	linesAre(t, "Unused"+at, unused, want.unused...)
+	texts := []string{}
+	for _, place := range want.under {
+		texts = append(texts, nodes[place].Text)
+	}
 	for _, list := range [][]string{names, lets, free, unused} {
-		if !slices.IsSorted(list) || len(slices.Compact(slices.Clone(list))) != len(list) {
-			t.Fatalf("of %s a name is told twice, or in no order: %q", at, list)
+		for i, name := range list {
+			if slices.Index(list, name) != i || !slices.Contains(texts, name) {
+				t.Fatalf("of %s a name is told twice, or is none of a node: %q", at, list)
+			}
 		}
 	}
 	for _, name := range names {
@@ -184,10 +201,8 @@ func namesAre(t *testing.T, nodes []impl.Node, k int, want toldNames) {
 			t.Fatalf("of %s %q is in FreeIn and LetsIn, or in neither", at, name)
 		}
 	}
-	for _, name := range slices.Concat(free, unused) {
-		if slices.Contains(free, name) && !slices.Contains(names, name) || slices.Contains(unused, name) && !slices.Contains(lets, name) {
-			t.Fatalf("of %s %q is told of what it is not in", at, name)
-		}
+	if !isPartInOrder(free, names) || !isPartInOrder(unused, lets) {
+		t.Fatalf("of %s FreeIn is %q of %q, Unused is %q of %q; want a part, in the same order", at, free, names, unused, lets)
 	}
 }
 
@@ -248,6 +263,18 @@ func isRenamed(t *testing.T, nodes []impl.Node, k int, from string, to string) (
 	return got, ok
 }
 
+// namesKeepTheirOrder wants the other name told where the one was that it stands for, and all others as they were.
+func namesKeepTheirOrder(t *testing.T, nodes []impl.Node, other []impl.Node, k int, from string, to string) {
+	t.Helper()
+	for what, namesOf := range map[string]func([]impl.Node, int) []string{"NamesIn": impl.NamesIn, "LetsIn": impl.LetsIn, "FreeIn": impl.FreeIn, "Unused": impl.Unused} {
+		want := namesOf(nodes, k)
+		if at := slices.Index(want, from); at >= 0 {
+			want[at] = to
+		}
+		linesAre(t, fmt.Sprintf("%s of %d with %q in the place of %q", what, k, to, from), namesOf(other, k), want...)
+	}
+}
+
 // renamesAndBack is promise 22: with another name all else is as it was.
 func renamesAndBack(t *testing.T, nodes []impl.Node, k int, from string, to string) []impl.Node {
 	t.Helper()
@@ -258,6 +285,7 @@ func renamesAndBack(t *testing.T, nodes []impl.Node, k int, from string, to stri
 	if !impl.TreeOk(other) || impl.CountName(other, k, to) != impl.CountName(nodes, k, from) || impl.CountName(other, k, from) != 0 {
 		t.Fatalf("Renamed(%v, %d, %q, %q) is no right tree, or the names in it are not as many: %v", nodes, k, from, to, other)
 	}
+	namesKeepTheirOrder(t, nodes, other, k, from, to)
 	turned, was, is := 0, impl.SignsIn(nodes), impl.SignsIn(other)
 	for i := range was {
 		switch {
@@ -318,7 +346,7 @@ main(args) {
 func TestNamesOfTheDocument(t *testing.T) {
 	nodes := readTree(t, "main(a, b) { var c = a + d; return c; }")
 	placesAreMembers(t, nodes, 9)
-	namesAre(t, nodes, 9, toldNames{fromTo(0, 9), words("a b c d"), words("a b c"), words("d"), words("b")})
+	namesAre(t, nodes, 9, toldNames{fromTo(0, 9), words("a b d c"), words("a b c"), words("d"), words("b")})
 	renamesAndBack(t, nodes, 9, "a", "z")
 	isNotRenamed(t, nodes, 9, "a", "d")
 	freshIs(t, nodes, "c", "c2")
@@ -330,15 +358,15 @@ func TestNamesByHand(t *testing.T) {
 	for k, want := range map[int]toldNames{
 		3:  {fromTo(0, 3), words("first second"), words("all"), words("first second"), words("all")},
 		6:  {fromTo(4, 6), words("all"), words("size"), words("all"), words("size")},
-		31: {fromTo(8, 31), words("add item kept other put size spare"), words("item kept other spare"), words("add put size"), words("other spare")},
-		32: {fromTo(4, 32), words("add all item kept other put size spare"), words("item kept other size spare"), words("add all put"), words("other spare")},
+		31: {fromTo(8, 31), words("item spare other size add put kept"), words("item spare other kept"), words("size add put"), words("spare other")},
+		32: {fromTo(4, 32), words("all item spare other size add put kept"), words("size item spare other kept"), words("all add put"), words("spare other")},
 		44: {fromTo(33, 44), words("args print"), words("args unused"), words("print"), words("unused")},
-		45: {fromTo(0, 45), words("add all args first item kept other print put second size spare"), words("all args item kept other size spare unused"), words("add first print put second"), words("other spare unused")},
+		45: {fromTo(0, 45), words("first second all item spare other size add put kept args print"), words("all size item spare other kept args unused"), words("first second add put print"), words("spare other unused")},
 		// The arrow, its value, the variable with it, the setting, and a number alone.
 		15: {fromTo(10, 15), words("item other size"), words("item other"), words("size"), words("other")},
 		14: {fromTo(12, 14), words("item size"), nil, words("item size"), nil},
-		16: {fromTo(10, 16), words("item other size"), words("item kept other"), words("size"), words("kept other")},
-		25: {fromTo(17, 25), words("add item kept put size"), nil, words("add item kept put size"), nil},
+		16: {fromTo(10, 16), words("item other size"), words("item other kept"), words("size"), words("other kept")},
+		25: {fromTo(17, 25), words("add item put size kept"), nil, words("add item put size kept"), nil},
 		26: {[]int{26}, nil, nil, nil, nil},
 		34: {[]int{34}, nil, words("unused"), nil, words("unused")},
 	} {
@@ -421,19 +449,77 @@ func TestNamesThatAreNowhereUsed(t *testing.T) {
 		"m(a){while(1){if(2){var a;}}}": "a; a; ; a",
 		"var a;":                        "; a; ; a",
 		"var a=a;":                      "a; a; ; ",
-		"var a=(b,c)=>b;":               "b c; a b c; ; a c",
+		"var a=(b,c)=>b;":               "b c; b c a; ; c a",
 		"var a=(a)=>1;":                 "a; a; ; a",
 		"class a{}":                     "; ; ; ",
 		"class C{var a;m(){a;}}":        "a; a; ; ",
 		"class C{var a;m(b){a=b;}}":     "b; a b; ; a",
-		// Names are told by their bytes: figures, great letters, `_`, small ones, a beginning ahead.
-		"m(b,_,aa,a,B,a1,A9,a_){}": "A9 B _ a a1 a_ aa b; A9 B _ a a1 a_ aa b; ; A9 B _ a a1 a_ aa b",
-		"m(){c;a;b;a;c;}":          "a b c; ; a b c; ",
-		"m(z,y){var x;w;v;}":       "v w y z; x y z; v w; x y z",
+		// Names are told in the order in which they stand, not by their bytes.
+		"m(b,_,aa,a,B,a1,A9,a_){}": "b _ aa a B a1 A9 a_; b _ aa a B a1 A9 a_; ; b _ aa a B a1 A9 a_",
+		"m(a_,A9,a1,B,a,aa,_,b){}": "a_ A9 a1 B a aa _ b; a_ A9 a1 B a aa _ b; ; a_ A9 a1 B a aa _ b",
+		"m(z,y){var x;w;v;}":       "z y w v; z y x; w v; z y x",
+		// A value stands ahead of the variable, or of the setting, that has it.
+		"m(){var a=c+b;}":  "c b; a; c b; a",
+		"m(){a=c+b;d;}":    "c b d; ; c b d; ",
+		"var c=(b)=>a+d;":  "b a d; b c; a d; b c",
+		"m(c){b(a(d),c);}": "c b a d; c; b a d; ",
+		// A name that stands more than once is told where it stands first.
+		"m(){c;a;b;a;c;}":                 "c a b; ; c a b; ",
+		"m(){b;a;b;a;b;}":                 "b a; ; b a; ",
+		"m(){var b;var a;b=1;}":           "; b a; ; b a",
+		"m(){var b;a;var a;var b;var c;}": "a; b a c; ; b c",
+		// The first variable, arrow or method that gives a name counts for LetsIn, not what stands ahead of it.
+		"m(){b;a;c;var a;var b;}":       "b a c; a b; c; ",
+		"m(){a=1;b=1;var b;var a;}":     "; b a; ; b a",
+		"m(){b;a;(a)=>1;(b)=>1;}":       "b a; a b; ; ",
+		"m(){a=c;b;var d;var b;var a;}": "c b; d b a; c; d a",
+		// Names that are given and variables stand among each other.
+		"m(z){var y=(x)=>1;var w;(a)=>1;}":    "z x a; z x y w a; ; z x y w a",
+		"m(){var b=1;(c,b)=>a;var c;}":        "c b a; b c; a; b c",
+		"m(d){var c;(b)=>d;var a=b;}":         "d b; d c b a; ; c a",
+		"class C{var z;m(y){var b;}var a;}":   "y; z y b a; ; z y b a",
+		"class C{n(d){c;}m(b){a;d;}var c=e;}": "d c b a e; d b c; a e; b",
 	} {
 		told := memberNames(t, source)
 		if got := fmt.Sprintf("%s; %s; %s; %s", strings.Join(told.names, " "), strings.Join(told.lets, " "), strings.Join(told.free, " "), strings.Join(told.unused, " ")); got != want {
 			t.Errorf("the names of %q are %q; want %q", source, got, want)
+		}
+	}
+}
+
+// TestNamesInTheOrderOfTheirPlaces has lists by hand in which a kid stands behind another kid of a smaller place.
+func TestNamesInTheOrderOfTheirPlaces(t *testing.T) {
+	for _, c := range []struct{ lines, want string }{
+		{"name m, name z, name a, list 1 0 2", "m z a; ; m z a; "},
+		{"name m, name z, name a, list 2 1 0", "m z a; ; m z a; "},
+		{"name m, name z, name a, chain + 1 2 0", "m z a; ; m z a; "},
+		{"name a, name b, num 1, fn 1 0 2", "a b; a b; ; a b"},
+		{"name m, name z, name a, num 1, fn 1 2 0 3", "m z a; m z a; ; m z a"},
+		{"name m, name z, name a, block, method n 1 2 0 3", "m z a; m z a; ; m z a"},
+		{"var m, var z, var a, block 1 2 0", "; m z a; ; m z a"},
+		{"var m, var z, var a, class C 2 0 1", "; m z a; ; m z a"},
+		{"var m, var z, class C 1, file 2 0", "; m z; ; m z"},
+		// The first node that has a name is that of the smallest place, not the first kid.
+		{"name b, name a, name b, list 1 2 0", "b a; ; b a; "},
+		{"name b, name a, name b, name c, name a, list 4 3 2 1 0", "b a c; ; b a c; "},
+		{"var b, var a, var b, block 1 2 0", "; b a; ; b a"},
+		// A value ahead of the names of its arrow, and a list of arrows with the later one ahead.
+		{"name z, name b, name a, fn 2 1 0", "z b a; b a; z; b a"},
+		{"name z, num 1, fn 0 1, name a, num 1, fn 3 4, list 5 2", "z a; z a; ; z a"},
+		{"name z, num 1, fn 0 1, var y 2, name x, num 1, fn 4 5, do 6, var w, block 8 7 3", "z x; z y x w; ; z y x w"},
+		{"name b, do 0, name a, do 2, var b, name d, do 5, var c, block 7 6 4 3 1", "b a d; b c; a d; c"},
+		// What stands among them by its place, and is not under it, does not count.
+		{"name z, name b, name a, name z, list 3 2 1", "b a z; ; b a z; "},
+	} {
+		nodes := nodesOf(strings.Split(c.lines, ", "))
+		k := len(nodes) - 1
+		namesAreByWord(t, nodes, k)
+		got := []string{}
+		for _, list := range [][]string{impl.NamesIn(nodes, k), impl.LetsIn(nodes, k), impl.FreeIn(nodes, k), impl.Unused(nodes, k)} {
+			got = append(got, strings.Join(list, " "))
+		}
+		if told := strings.Join(got, "; "); told != c.want {
+			t.Errorf("the names of %q are %q; want %q", c.lines, told, c.want)
 		}
 	}
 }

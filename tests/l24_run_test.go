@@ -12,7 +12,7 @@ import (
 
 const (
 	mostRunSteps = 1000
-	mostRunDeep  = 20
+	mostRunCalls = 20
 )
 
 // wordRun does a method as the chapter's words say, without a panic: once there is a code, nothing more is done. It has cells in a map, as no two of a method have one name.
@@ -128,9 +128,10 @@ func (w *wordRun) call(cells map[string]int, deep int, kids []int) int {
 	return w.method(called.Text, nums, deep+1)
 }
 
+// method is in so many calls as it is deep; the one that is asked for is in none.
 func (w *wordRun) method(name string, args []int, deep int) int {
 	place := methodByWord(w.nodes, name)
-	if place < 0 || deep > mostRunDeep || len(w.nodes[place].Kids) != len(args)+1 {
+	if place < 0 || deep > mostRunCalls || len(w.nodes[place].Kids) != len(args)+1 {
 		return w.fault()
 	}
 	cells, last := map[string]int{}, len(args)
@@ -224,7 +225,7 @@ func ranByWord(nodes []impl.Node, name string, args []int, steps int) impl.Ran {
 		w.fault()
 		return w.ran
 	}
-	ret := w.method(name, args, 1)
+	ret := w.method(name, args, 0)
 	if w.ran.Code == 0 {
 		w.ran.Ret = ret
 	}
@@ -713,33 +714,99 @@ func TestNamesOfMethods(t *testing.T) {
 	}
 }
 
-func TestMethodsThatCallThemselves(t *testing.T) {
-	// Each counts how deep it is, from the one that is asked for on.
-	const down = "m(n) { print(n); if (n == 1) { return 0; } return m(n - 1) + 1; }"
-	const other = "m(n) { return n < 2 ? n : f(n - 1) + 1; } f(n) { return n < 2 ? n : g(n - 1) + 1; } g(n) { return n < 2 ? n : m(n - 1) + 1; }"
-	const never = "m(n) { print(n); m(n + 1); }"
-	for n := 1; n <= mostRunDeep; n++ {
-		out := fromTo(1, n)
-		slices.Reverse(out)
-		runsTo(t, down, []int{n}, answers(n-1, 3*n, out...))
-		runsTo(t, other, []int{n}, answers(n, n))
-	}
-	out := fromTo(2, mostRunDeep+1)
-	slices.Reverse(out)
-	for _, more := range []int{1, 2, 50} {
-		// What is too deep takes no step.
-		runsTo(t, other, []int{mostRunDeep + more}, faults(mostRunDeep))
-		if more == 1 {
-			runsTo(t, down, []int{mostRunDeep + 1}, faults(3*mostRunDeep, out...))
+// downFrom counts down, as a method that calls itself with one less does.
+func downFrom(from int, to int) []int {
+	list := fromTo(to, from)
+	slices.Reverse(list)
+	return list
+}
+
+// One that tells its number, and calls with one less till it is 0: itself, two in turn, three in turn, or another one that calls itself.
+const (
+	callsItself     = "m(n) { print(n); if (n) { return m(n - 1) + 1; } return 7; }"
+	callsInTurn     = "m(n) { print(n); if (n) { return f(n - 1) + 1; } return 7; } f(n) { print(n); if (n) { return m(n - 1) + 1; } return 7; }"
+	callsAllInTurn  = "m(n) { print(n); if (n) { return f(n - 1) + 1; } return 7; } f(n) { print(n); if (n) { return g(n - 1) + 1; } return 7; } g(n) { print(n); if (n) { return m(n - 1) + 1; } return 7; }"
+	callsAnotherOne = "m(n) { print(n); if (n) { return f(n - 1) + 1; } return 7; } f(n) { print(n); if (n) { return f(n - 1) + 1; } return 7; }"
+)
+
+func TestCallsInOneAnother(t *testing.T) {
+	for _, source := range []string{callsItself, callsInTurn, callsAllInTurn, callsAnotherOne} {
+		// The method that is asked for is no call: with 0 there is none, with 20 there are 20 in one another.
+		for calls := range mostRunCalls + 1 {
+			runsTo(t, source, []int{calls}, answers(7+calls, 3*(calls+1), downFrom(calls, 0)...))
+		}
+		// One more would be 21 deep: it takes no step, and what was told stays.
+		for _, calls := range []int{mostRunCalls + 1, mostRunCalls + 2, 2 * mostRunCalls, 100, impl.MaxValue} {
+			last := calls - mostRunCalls
+			runsTo(t, source, []int{calls}, faults(3*(mostRunCalls+1), downFrom(calls, last)...))
 		}
 	}
-	runsTo(t, never, []int{1}, faults(2*mostRunDeep, fromTo(1, mostRunDeep)...))
-	// A value of a call is no deeper than the call.
+}
+
+func TestCallsInOneAnotherWithFewSteps(t *testing.T) {
+	all := 3 * (mostRunCalls + 1)
+	for _, source := range []string{callsItself, callsInTurn} {
+		// The call that is 21 deep is refused behind the last step, not for want of one.
+		got := sourceRuns(t, source, "m", []int{mostRunCalls + 1}, all)
+		if want := faults(all, downFrom(mostRunCalls+1, 1)...); !sameRan(got, want) {
+			t.Errorf("%q with %d steps does %v; want %v", source, all, got, want)
+		}
+		// The one that is 20 deep has its first step to take.
+		got = sourceRuns(t, source, "m", []int{mostRunCalls}, all-3)
+		want := impl.Ran{Out: downFrom(mostRunCalls, 1), Code: impl.RnSteps, Steps: all - 3}
+		if !sameRan(got, want) {
+			t.Errorf("%q with %d steps does %v; want %v", source, all-3, got, want)
+		}
+	}
+}
+
+func TestCallsInOneAnotherWhereverTheyStand(t *testing.T) {
+	// In each way m calls itself once; other is called only when that is left.
+	ways := []string{
+		"return m(n - 1);", "m(n - 1);", "var a = m(n - 1);", "n = m(n - 1);", "if (m(n - 1)) {}", "while (m(n - 1)) {}",
+		"print(m(n - 1));", "return 1 + m(n - 1) * 2;", "return m(n - 1) == 0;", "return 0 || m(n - 1);", "return 1 && m(n - 1);",
+		"return m(n - 1) ? 1 : 2;", "return n ? m(n - 1) : 2;", "return ((m(n - 1)));", "if (n) { m(n - 1); }", "if (0) {} else { m(n - 1); }", "while (1) { return m(n - 1); }",
+		"other(m(n - 1));", "return other(other(m(n - 1)));",
+	}
+	for _, way := range ways {
+		source := "m(n) { if (n == 0) { return 0; } " + way + " } other(x) { return 0; }"
+		readTree(t, source)
+		for _, c := range []struct{ calls, code int }{
+			{mostRunCalls - 1, 0}, {mostRunCalls, 0}, {mostRunCalls + 1, impl.RnFault}, {3 * mostRunCalls, impl.RnFault},
+		} {
+			if got := sourceRuns(t, source, "m", []int{c.calls}, mostRunSteps); got.Code != c.code {
+				t.Errorf("%q does %v of %d; want the code %d", source, got, c.calls, c.code)
+			}
+		}
+	}
+}
+
+func TestCallsThatAreLeft(t *testing.T) {
+	const never = "m(n) { print(n); m(n + 1); }"
+	runsTo(t, never, []int{1}, faults(2*(mostRunCalls+1), fromTo(1, mostRunCalls+1)...))
+	// A value of a call is no deeper than the call, whatever it is a value of.
 	const values = "m(n) { if (n == 1) { return f(f(f(0))); } return m(n - 1); } f(x) { return x + 1; }"
-	runsTo(t, values, []int{mostRunDeep - 1}, answers(3, 2*(mostRunDeep-1)+3))
-	runsTo(t, values, []int{mostRunDeep}, faults(2*mostRunDeep))
+	runsTo(t, values, []int{mostRunCalls}, answers(3, 2*mostRunCalls+3))
+	runsTo(t, values, []int{mostRunCalls + 1}, faults(2*(mostRunCalls+1)))
+	many := inOneAnother("f(", "0", ")", 8)
+	runsTo(t, "m(n) { return n ? m(n - 1) : "+many+"; } f(x) { return x + 1; }", []int{mostRunCalls - 1}, answers(8, mostRunCalls+8))
+	// Its values are done, though it is refused.
+	const told = "m(n) { if (n) { return m(n - 1); } return f(f(5)); } f(x) { print(x); return x + 1; }"
+	runsTo(t, told, []int{mostRunCalls - 1}, answers(7, 2*mostRunCalls+4, 5, 6))
+	runsTo(t, told, []int{mostRunCalls}, faults(2*(mostRunCalls+1)))
+	const printed = "m(n) { if (n) { return m(n - 1); } return f(print(5)); } f(x) { return 3; }"
+	runsTo(t, printed, []int{mostRunCalls - 1}, answers(3, 2*mostRunCalls+1, 5))
+	runsTo(t, printed, []int{mostRunCalls}, faults(2*(mostRunCalls+1), 5))
+	// What is told is no call of a method, so it may be told in the last one, and in itself.
+	const tells = "m(n) { if (n) { return m(n - 1); } return print(print(n)) + 4; }"
+	runsTo(t, tells, []int{mostRunCalls}, answers(4, 2*mostRunCalls+2, 0, 0))
+	many = inOneAnother("print(", "5", ")", 8)
+	runsTo(t, "m(n) { return n ? m(n - 1) : "+many+"; }", []int{mostRunCalls}, answers(0, mostRunCalls+1, append([]int{5}, make([]int, 7)...)...))
 	// How deep it was counts no more when it is left.
 	runsTo(t, "m() { var i = 0; while (i < 30) { f(15); i = i + 1; } return i; } f(n) { if (n == 1) { return 0; } return f(n - 1); }", nil, answers(30, 3+30*33))
+	const twice = "m() { return f(19) + f(19); } f(n) { return n ? f(n - 1) + 1 : 0; }"
+	runsTo(t, twice, nil, answers(38, 41))
+	runsTo(t, strings.ReplaceAll(twice, "19", "20"), nil, faults(21))
 }
 
 func TestMethodsThatCallThemselvesHaveTheirCells(t *testing.T) {
